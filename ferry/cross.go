@@ -32,7 +32,7 @@ func unit(e api.Ent, ids map[int]int, since int) api.Unit {
 }
 
 // orders for a tick's commands, one each; false: one came of a kind that the newer game has not.
-// (Such a one may be gone within the tick, so that no state has it; but what it cost can't be paid in the newer game.)
+// (Such a one may be gone within the tick, so that no state has it; but nothing in the newer game costs the same.)
 func (c *crossing) orders(s api.Elder, l []api.Cmd) ([]api.Order, bool) {
 	var out []api.Order
 	known := 0
