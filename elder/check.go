@@ -92,20 +92,14 @@ func checkFree(s api.Elder) error {
 // mayAim: is the target there, and may it be fought, or mined, by that one?
 func mayAim(l []api.Ent, e api.Ent, does, target int) bool {
 	i := index(l, target)
-	if i < 0 {
-		return false
-	}
+	return i >= 0 && May(e, does, l[i])
+}
+
+// May it fight, or mine, that one?
+func May(e api.Ent, does int, target api.Ent) bool {
 	if does == api.Mines {
-		return mayMine(e, l[i])
+		return target.Kind == api.Mine && rule(e).Load > 0
 	}
-	return mayFight(e, l[i])
-}
-
-func mayMine(e, target api.Ent) bool {
-	return target.Kind == api.Mine && rule(e).Load > 0
-}
-
-func mayFight(e, target api.Ent) bool {
 	return target.Kind != api.Mine && target.Owner != e.Owner && rule(e).Harm > 0
 }
 

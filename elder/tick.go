@@ -24,6 +24,23 @@ func begin(s api.Elder) *game {
 	return g
 }
 
+// moved: a tick with these commands, as far as its blows.
+func moved(s api.Elder, l []api.Cmd) (*game, error) {
+	if err := Check(s); err != nil {
+		return nil, err
+	}
+	if len(l) > api.MaxCmds || s.Tick == api.MaxTicks {
+		return nil, api.ErrMany
+	}
+	g := begin(s)
+	for _, c := range l {
+		g.command(c)
+	}
+	g.move()
+	g.arrive()
+	return g, nil
+}
+
 // command: done, or passed over.
 func (g *game) command(c api.Cmd) {
 	i := index(g.s.Ents, c.ID)
@@ -131,30 +148,28 @@ func (g *game) move() {
 	}
 }
 
-// wish: the place that it wishes to go to; false: none.
+// wish: the place that it wishes to go to; false: none, as of all who came in this tick.
 func (g *game) wish(e api.Ent) (place, bool) {
-	to, ok := g.heading(e)
-	if !ok || g.was[e.ID] == 0 || rule(e).Speed == 0 {
-		return place{}, false
-	}
-	x, y := rules.Toward(e.X, e.Y, to.x, to.y)
-	return place{x, y}, x != e.X || y != e.Y
+	x, y := Wish(g.s.Ents, e)
+	return place{x, y}, g.was[e.ID] > 0 && (x != e.X || y != e.Y)
 }
 
-// heading: where it would be in the end; false: nowhere else than here.
-func (g *game) heading(e api.Ent) (place, bool) {
-	switch e.Does {
-	case api.Going:
-		return place{e.GX, e.GY}, true
-	case api.Fights, api.Mines:
-		o := g.s.Ents[index(g.s.Ents, e.Target)]
-		return place{o.X, o.Y}, !near(e, o)
+// Wish: the place that one wishes to go to, by where all of these are; its own one: none.
+func Wish(l []api.Ent, e api.Ent) (int, int) {
+	if rule(e).Speed == 0 {
+		return e.X, e.Y
 	}
-	return place{}, false
+	if e.Does == api.Going {
+		return rules.Toward(e.X, e.Y, e.GX, e.GY)
+	}
+	if i := index(l, e.Target); i >= 0 && !Near(e, l[i]) {
+		return rules.Toward(e.X, e.Y, l[i].X, l[i].Y)
+	}
+	return e.X, e.Y
 }
 
-// near enough to be fought, or mined?
-func near(e, target api.Ent) bool {
+// Near enough to be fought, or mined?
+func Near(e, target api.Ent) bool {
 	reach := 1
 	if e.Does == api.Fights {
 		reach = rule(e).Range
@@ -179,7 +194,7 @@ func (g *game) strike() {
 			continue
 		}
 		target := &g.s.Ents[index(g.s.Ents, e.Target)]
-		if !near(e, *target) {
+		if !Near(e, *target) {
 			continue
 		}
 		if e.Does == api.Fights {

@@ -31,25 +31,32 @@ func unit(e api.Ent, ids map[int]int, since int) api.Unit {
 	}
 }
 
-// orders for a tick's commands, one each; false: one came of a kind that the newer game has not.
-// (Such a one may be gone within the tick, so that no state has it; but nothing in the newer game costs the same.)
-func (c *crossing) orders(s api.Elder, l []api.Cmd) ([]api.Order, bool) {
+// tick: orders for its commands, as many; false: there are none that end as it did.
+func (c *crossing) tick(was api.Elder, l []api.Cmd, end api.Elder) ([]api.Order, bool) {
+	mid, err := elder.Moved(was, l)
+	if err != nil {
+		return nil, false
+	}
+	alien := func(e api.Ent) bool { _, ok := rules.Newer(e.Kind); return !ok }
+	if slices.ContainsFunc(mid.Ents, alien) {
+		return c.amend(scene{was, mid, end, len(l)})
+	}
+	return c.orders(was, l), true
+}
+
+// orders for a tick's commands, one each.
+func (c *crossing) orders(s api.Elder, l []api.Cmd) []api.Order {
 	var out []api.Order
 	known := 0
 	for i, cmd := range l {
 		out = append(out, c.order(s, cmd))
-		born := came(s, l[:i+1])
-		if len(born) == known {
-			continue
+		if born := came(s, l[:i+1]); len(born) > known {
+			c.ids[born[known]] = c.next
+			c.next++
+			known++
 		}
-		if _, ok := rules.Newer(cmd.Kind); !ok {
-			return nil, false
-		}
-		c.ids[born[known]] = c.next
-		c.next++
-		known++
 	}
-	return out, true
+	return out
 }
 
 // came: who comes by these commands, in order. By how many more they are with a command it is known what came by it.

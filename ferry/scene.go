@@ -1,0 +1,175 @@
+package ferry
+
+import (
+	"slices"
+
+	"ferryman/api"
+	"ferryman/elder"
+	"ferryman/rules"
+)
+
+// scene: a tick of the elder game for which orders are looked for.
+type scene struct {
+	was, mid, end api.Elder // ahead of it, at its blows, behind it
+	most          int       // as many orders as there are commands
+}
+
+type place struct{ x, y int }
+
+func spot(e api.Ent) place {
+	return place{e.X, e.Y}
+}
+
+// index of who has the ID; below 0: nobody.
+func index(l []api.Ent, id int) int {
+	return slices.IndexFunc(l, func(e api.Ent) bool { return e.ID == id })
+}
+
+// find who has the ID; nobody is all zero.
+func find(l []api.Ent, id int) api.Ent {
+	if i := index(l, id); i >= 0 {
+		return l[i]
+	}
+	return api.Ent{}
+}
+
+// standing: index of who stands there; below 0: nobody.
+func standing(l []api.Ent, p place) int {
+	return slices.IndexFunc(l, func(e api.Ent) bool { return spot(e) == p })
+}
+
+// came: who came in the tick, just as it did: those who are there behind it, and those who are gone.
+func (s scene) came() (stay, gone []api.Ent) {
+	for _, e := range s.mid.Ents {
+		if index(s.was.Ents, e.ID) >= 0 {
+			continue
+		}
+		e = raised(e.ID, e.Owner, e.Kind, spot(e))
+		if index(s.end.Ents, e.ID) >= 0 {
+			stay = append(stay, e)
+		} else {
+			gone = append(gone, e)
+		}
+	}
+	return stay, gone
+}
+
+func raised(id, owner, kind int, p place) api.Ent {
+	r, _ := rules.Newer(kind)
+	return api.Ent{ID: id, Owner: owner, Kind: kind, X: p.x, Y: p.y, HP: r.HP}
+}
+
+// guests: who might be raised, and be gone within the tick: where one was so it has the same ID, else one by its place that nobody has.
+// (A Tower is never struck down within a tick: it would take ten soldiers.)
+func (s scene) guests() []api.Ent {
+	_, gone := s.came()
+	var l []api.Ent
+	for n := range api.Side * api.Side {
+		p, id := place{n % api.Side, n / api.Side}, api.MaxID+1+n
+		if standing(s.was.Ents, p) >= 0 {
+			continue
+		}
+		if i := standing(gone, p); i >= 0 {
+			id = gone[i].ID
+		} else if standing(s.mid.Ents, p) >= 0 {
+			continue
+		}
+		for owner := range api.Players {
+			for _, kind := range []int{api.Worker, api.Soldier} {
+				if e := raised(id, owner, kind, p); s.mayFall(e) {
+					l = append(l, e)
+				}
+			}
+		}
+	}
+	return l
+}
+
+// mayFall: are there foes enough, near enough at the blows, to strike one down that has just come?
+func (s scene) mayFall(e api.Ent) bool {
+	harm := 0
+	for _, o := range s.mid.Ents {
+		o.Does = api.Fights
+		if index(s.was.Ents, o.ID) >= 0 && elder.May(o, api.Fights, e) && elder.Near(o, e) {
+			r, _ := rules.Newer(o.Kind)
+			harm += r.Harm
+		}
+	}
+	return harm >= e.HP
+}
+
+// parties: who might come in the tick: those who stay, and with them no guest, one, or two: for three there are not orders enough.
+func (s scene) parties(yield func([]api.Ent) bool) {
+	stay, _ := s.came()
+	guests := s.guests()
+	if s.affords(stay) && !yield(stay) {
+		return
+	}
+	for i, a := range guests {
+		one := append(slices.Clone(stay), a)
+		if s.affords(one) && !yield(one) {
+			return
+		}
+		for _, b := range guests[:i] {
+			two := append(slices.Clone(one), b)
+			if spot(a) != spot(b) && len(stay)+toll(a)+toll(b) <= s.most && s.affords(two) && !yield(two) {
+				return
+			}
+		}
+	}
+}
+
+// toll: how many orders it takes to raise one, and to have it struck down: no blow takes more than 2.
+func toll(e api.Ent) int {
+	return 1 + (e.HP+1)/2
+}
+
+// affords: is there gold, and room, for those who come?
+func (s scene) affords(party []api.Ent) bool {
+	for p := range api.Players {
+		if bill(party, p) > s.was.Gold[p] {
+			return false
+		}
+	}
+	return len(s.was.Ents)+len(party) <= api.MaxEnts
+}
+
+// bill: what a player pays for those who come.
+func bill(party []api.Ent, player int) int {
+	sum := 0
+	for _, e := range party {
+		if r, _ := rules.Newer(e.Kind); e.Owner == player {
+			sum += r.Cost
+		}
+	}
+	return sum
+}
+
+// lineUp those who come, each behind one who can raise it, whose ID stands beside; false: there is none.
+func (s scene) lineUp(party []api.Ent) (line []api.Ent, by []int, ok bool) {
+	there, left := slices.Clone(s.was.Ents), slices.Clone(party)
+	for len(left) > 0 {
+		id := 0
+		i := slices.IndexFunc(left, func(e api.Ent) bool {
+			id = builder(there, e)
+			return id > 0
+		})
+		if i < 0 {
+			return nil, nil, false
+		}
+		line, by, there = append(line, left[i]), append(by, id), append(there, left[i])
+		left = slices.Delete(left, i, i+1)
+	}
+	return line, by, true
+}
+
+// builder: the ID of one who can raise that one where it is to stand; 0: nobody can.
+func builder(l []api.Ent, e api.Ent) int {
+	i := slices.IndexFunc(l, func(o api.Ent) bool {
+		return o.Kind == api.Worker && o.Owner == e.Owner && rules.Far(o.X, o.Y, e.X, e.Y) <= 1
+	})
+	if i < 0 {
+		return 0
+	}
+	return l[i].ID
+}
