@@ -5,11 +5,23 @@ import "ferryman/api"
 // amend: orders for a tick in which one came, and was gone, whom the newer game can't have; false: none are found.
 // What was paid for that one must be made up for, so orders are looked for that end in the same way, whoever they are given to.
 func (c *crossing) amend(s scene) ([]api.Order, bool) {
-	t, ok := s.solve()
-	if !ok {
-		return nil, false
+	for other := range s.castings {
+		if t, ok := other.solve(); ok {
+			l := c.write(t)
+			c.settle(s.end.Ents, other.end.Ents)
+			return l, true
+		}
 	}
-	return c.write(t), true
+	return nil, false
+}
+
+// settle: who is there behind the tick has the newer ID of who has its part.
+func (c *crossing) settle(end, cast []api.Ent) {
+	ids := map[int]int{}
+	for i, e := range end {
+		ids[e.ID] = c.ids[cast[i].ID]
+	}
+	c.ids = ids
 }
 
 // write the orders: first those that raise, so that who comes can be aimed at; empty ones, which are nobody's, fill them up.
@@ -28,11 +40,6 @@ func (c *crossing) write(t *task) []api.Order {
 	for _, p := range t.picked {
 		if p.order > 0 {
 			l = append(l, c.tell(p.does))
-		}
-	}
-	for _, e := range t.party {
-		if index(t.end.Ents, e.ID) < 0 {
-			delete(c.ids, e.ID)
 		}
 	}
 	return append(l, make([]api.Order, t.most-len(l))...)

@@ -5,7 +5,6 @@ import (
 
 	"ferryman/api"
 	"ferryman/elder"
-	"ferryman/rules"
 )
 
 // crossing: a play that is carried over, tick by tick.
@@ -37,8 +36,7 @@ func (c *crossing) tick(was api.Elder, l []api.Cmd, end api.Elder) ([]api.Order,
 	if err != nil {
 		return nil, false
 	}
-	alien := func(e api.Ent) bool { _, ok := rules.Newer(e.Kind); return !ok }
-	if slices.ContainsFunc(mid.Ents, alien) {
+	if slices.ContainsFunc(mid.Ents, func(e api.Ent) bool { return e.Kind == api.Mule }) {
 		return c.amend(scene{was, mid, end, len(l)})
 	}
 	return c.orders(was, l), true
@@ -89,7 +87,7 @@ func (c *crossing) order(s api.Elder, cmd api.Cmd) api.Order {
 
 // isMine: has a mine the ID? Mines are not built, so the state at the tick's beginning has them all.
 func isMine(s api.Elder, id int) bool {
-	return slices.ContainsFunc(s.Ents, func(e api.Ent) bool { return e.ID == id && e.Kind == api.Mine })
+	return find(s.Ents, id).Kind == api.Mine
 }
 
 // forget who is gone: the elder game gives these IDs to others.

@@ -40,7 +40,7 @@ func (t *task) measure() {
 		digs := 0
 		for _, p := range l {
 			if p.hit >= 0 {
-				d.hp[p.hit] += blow(p)
+				d.hp[p.hit] += blow(p.does)
 			}
 			digs = max(digs, load(p))
 			if c := slices.Index(t.claims, p.claim); c >= 0 {
@@ -54,10 +54,10 @@ func (t *task) measure() {
 	}
 }
 
-// blow: how much HP is taken from who is hit.
-func blow(p plan) int {
-	r, _ := rules.Newer(p.does.Kind)
-	if p.does.Does == api.Mines {
+// blow: how much HP one takes from who is hit.
+func blow(e api.Ent) int {
+	r, _ := rules.Newer(e.Kind)
+	if e.Does == api.Mines {
 		return r.Load
 	}
 	return r.Harm
@@ -68,7 +68,7 @@ func load(p plan) int {
 	if p.hit < 0 || p.does.Does != api.Mines {
 		return 0
 	}
-	return blow(p)
+	return blow(p.does)
 }
 
 // meet what is owed: each one that is left picks a plan; false: they can't. What was tried in vain is not tried again.
@@ -94,7 +94,7 @@ func (t *task) pay(d debt, p plan) debt {
 	d.from++
 	d.orders -= p.order
 	if p.hit >= 0 {
-		d.hp[p.hit] -= blow(p)
+		d.hp[p.hit] -= blow(p.does)
 		if index(t.end.Ents, t.all[p.hit].ID) < 0 {
 			d.hp[p.hit] = max(d.hp[p.hit], 0)
 		}

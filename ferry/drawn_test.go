@@ -7,7 +7,6 @@ import (
 
 	"ferryman/api"
 	"ferryman/elder"
-	"ferryman/view"
 )
 
 // wanted: what is told of a tape that is right, by the chapter's own words, with Play alone.
@@ -25,28 +24,19 @@ func wanted(t *testing.T, x api.Tape, from int) (int, error) {
 			return s.Tick, api.ErrCompat
 		}
 	}
-	for n := from; n < len(x.Ticks); n++ {
-		s, _ := elder.Play(x, n)
-		if mulesMatter(t, s, x.Ticks[n]) {
-			return s.Tick + 1, api.ErrCompat
-		}
+	// Whether a mule that is soon gone can be made up for is asked elsewhere; if not, its tick is told.
+	_, tick, err := Translate(x, from)
+	if n := tick - 1 - x.Start.Tick; err == api.ErrCompat && n >= from && n < len(x.Ticks) && muleCame(x, n) {
+		return tick, err
 	}
 	return 0, nil
 }
 
-// mulesMatter: would the tick end otherwise, if no mule were built?
-func mulesMatter(t *testing.T, s api.Elder, l []api.Cmd) bool {
-	t.Helper()
-	var without []api.Cmd
-	for _, c := range l {
-		if c.Op == api.CmdBuild && c.Kind == api.Mule {
-			c = api.Cmd{}
-		}
-		without = append(without, c)
-	}
-	a, _, e1 := elder.Step(s, l)
-	b, _, e2 := elder.Step(s, without)
-	return !view.Same(elderView(t, a, e1), elderView(t, b, e2))
+// muleCame in that tick?
+func muleCame(x api.Tape, n int) bool {
+	s, _ := elder.Play(x, n)
+	mid, err := elder.Moved(s, x.Ticks[n])
+	return err == nil && !fitting(mid)
 }
 
 // seen: what came about in drawn tapes that were carried over.

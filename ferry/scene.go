@@ -38,8 +38,8 @@ func standing(l []api.Ent, p place) int {
 	return slices.IndexFunc(l, func(e api.Ent) bool { return spot(e) == p })
 }
 
-// came: who came in the tick, just as it did: those who are there behind it, and those who are gone.
-func (s scene) came() (stay, gone []api.Ent) {
+// newcomers: who came in the tick, just as they did: those who are there behind it, and those who are gone.
+func (s scene) newcomers() (stay, gone []api.Ent) {
 	for _, e := range s.mid.Ents {
 		if index(s.was.Ents, e.ID) >= 0 {
 			continue
@@ -62,10 +62,12 @@ func raised(id, owner, kind int, p place) api.Ent {
 // guests: who might be raised, and be gone within the tick: where one was so it has the same ID, else one by its place that nobody has.
 // (A Tower is never struck down within a tick: it would take ten soldiers.)
 func (s scene) guests() []api.Ent {
-	_, gone := s.came()
+	_, gone := s.newcomers()
+	old := slices.DeleteFunc(slices.Clone(s.mid.Ents), func(e api.Ent) bool { return index(s.was.Ents, e.ID) < 0 })
 	var l []api.Ent
 	for n := range api.Side * api.Side {
-		p, id := place{n % api.Side, n / api.Side}, api.MaxID+1+n
+		p := place{n % api.Side, n / api.Side}
+		id := stranger(p)
 		if standing(s.was.Ents, p) >= 0 {
 			continue
 		}
@@ -76,7 +78,7 @@ func (s scene) guests() []api.Ent {
 		}
 		for owner := range api.Players {
 			for _, kind := range []int{api.Worker, api.Soldier} {
-				if e := raised(id, owner, kind, p); s.mayFall(e) {
+				if e := raised(id, owner, kind, p); mayFall(old, e) {
 					l = append(l, e)
 				}
 			}
@@ -85,22 +87,23 @@ func (s scene) guests() []api.Ent {
 	return l
 }
 
-// mayFall: are there foes enough, near enough at the blows, to strike one down that has just come?
-func (s scene) mayFall(e api.Ent) bool {
-	harm := 0
-	for _, o := range s.mid.Ents {
-		o.Does = api.Fights
-		if index(s.was.Ents, o.ID) >= 0 && elder.May(o, api.Fights, e) && elder.Near(o, e) {
-			r, _ := rules.Newer(o.Kind)
-			harm += r.Harm
+// mayFall: are there strikers enough among those who were there, as they stand at the blows, near enough to strike one down?
+func mayFall(l []api.Ent, e api.Ent) bool {
+	hp := e.HP
+	for _, o := range l {
+		for _, does := range []int{api.Fights, api.Mines} {
+			o.Does = does
+			if elder.May(o, does, e) && elder.Near(o, e) {
+				hp -= blow(o)
+			}
 		}
 	}
-	return harm >= e.HP
+	return hp <= 0
 }
 
 // parties: who might come in the tick: those who stay, and with them no guest, one, or two: for three there are not orders enough.
 func (s scene) parties(yield func([]api.Ent) bool) {
-	stay, _ := s.came()
+	stay, _ := s.newcomers()
 	guests := s.guests()
 	if s.affords(stay) && !yield(stay) {
 		return

@@ -86,19 +86,16 @@ func (t *task) plansOf(i int) []plan {
 	return l
 }
 
-// doings: what one might do: what it does already, what it did in the elder game, nothing but to be there, and whatever it may aim at.
+// doings: what one might do: what it does already, what it did in the elder game, what it does in the end, nothing but to be there, and whatever it may aim at.
 func (t *task) doings(i int) []api.Ent {
 	e, at := t.all[i], t.at[i]
 	l := []api.Ent{e}
-	mid := find(t.mid.Ents, e.ID)
-	if j := index(t.all, mid.Target); mid.Target == 0 || j >= 0 && elder.May(e, mid.Does, t.all[j]) {
-		l = append(l, turned(e, mid.Does, mid.GX, mid.GY, mid.Target))
+	for _, o := range []api.Ent{find(t.mid.Ents, e.ID), find(t.end.Ents, e.ID)} {
+		if j := index(t.all, o.Target); o.Target == 0 || j >= 0 && elder.May(e, o.Does, t.all[j]) {
+			l = append(l, turned(e, o.Does, o.GX, o.GY, o.Target))
+		}
 	}
-	if spot(at) == spot(e) {
-		l = append(l, turned(e, api.Idle, 0, 0, 0))
-	} else {
-		l = append(l, turned(e, api.Going, at.X, at.Y, 0))
-	}
+	l = append(l, turned(e, api.Idle, 0, 0, 0), turned(e, api.Going, at.X, at.Y, 0))
 	for _, o := range t.all {
 		for _, does := range []int{api.Fights, api.Mines} {
 			if elder.May(e, does, o) {

@@ -216,7 +216,7 @@ func fleeting() api.Tape {
 		nil, cmds(build(0, 2, api.Mule, 3, 4), attack(1, 5, 4), attack(1, 6, 4), attack(1, 7, 4)), nil)
 }
 
-// W1: what the newer game can't play so is refused: nothing costs there what a mule does.
+// W1: what the newer game can't play so is refused: nothing costs there what a mule does, and nobody mines to make up for it.
 func TestTranslateFleeting(t *testing.T) {
 	x := fleeting()
 	refused(t, "a mule that is soon gone", x, 0, 2, api.ErrCompat)
