@@ -37,7 +37,7 @@ func (s scene) cast(parts [][]part, given []part, others int, yield func(scene) 
 		return others > 0 || !s.mayEnd(given) || yield(s.staged(given))
 	}
 	for k, p := range parts[i] {
-		taken := func(o part) bool { return o.at == p.at || o.slot >= 0 && o.slot == p.slot }
+		taken := func(o part) bool { return o.at == p.at }
 		if min(k, 1) > others || slices.ContainsFunc(given, taken) {
 			continue
 		}
@@ -62,8 +62,7 @@ func (s scene) partsOf(i int) []part {
 		l = append(l, part{to, -1})
 	}
 	for j, o := range s.end.Ents {
-		alike := o.Kind == e.Kind && o.Owner == e.Owner && o.HP <= e.HP
-		if alike && rules.Far(e.X, e.Y, o.X, o.Y) <= 1 && standing(s.was.Ents, spot(o)) < 0 {
+		if o.Kind == e.Kind && o.Owner == e.Owner && rules.Far(e.X, e.Y, o.X, o.Y) <= 1 {
 			l = append(l, part{spot(o), j})
 		}
 	}

@@ -9,11 +9,11 @@ import (
 
 // debt: what is still to be met by those who have not picked their plan.
 type debt struct {
-	from   int              // who picks next
-	orders int              // that are left
-	gold   [api.Players]int // that is to be dug up
-	hp     [api.MaxEnts]int // that each is to lose
-	claims [api.MaxEnts]int // by place: how many lay claim to it in vain, so far; two are as good as more
+	from   int                  // who picks next
+	orders int                  // that are left
+	gold   [api.Players]int     // that is to be dug up
+	hp     [api.MaxEnts]int     // that each is to lose
+	claims [2 * api.MaxEnts]int // by place: how many lay claim to it so far; one alone would get it; two are as good as more
 }
 
 // owed, as nobody has picked yet.

@@ -57,6 +57,8 @@ func TestGone(t *testing.T) {
 	falling.Ents[5].HP, falling.Ents[7].Owner, falling.Ents[8] = 2, 1, aims(falling.Ents[8], api.Fights, 6)
 	blocked := field(going(one(9, 0, api.Worker, 4, 5), 4, 0))
 	straying := field(hurt(one(9, 1, api.Soldier, 8, 4), 2), aims(one(10, 0, api.Soldier, 9, 5), api.Fights, 9))
+	rivals := field(one(9, 0, api.Worker, 1, 8), one(10, 0, api.Worker, 1, 10))
+	chased := field(going(one(9, 0, api.Worker, 1, 8), 11, 8), going(one(10, 0, api.Worker, 1, 9), 11, 9), aims(one(11, 1, api.Soldier, 6, 11), api.Fights, 9))
 	twins := field(going(one(9, 0, api.Worker, 1, 8), 11, 8), going(one(10, 0, api.Worker, 1, 9), 11, 9))
 	for _, c := range []struct {
 		name string
@@ -73,11 +75,14 @@ func TestGone(t *testing.T) {
 		{"one comes that stays", two, mule(two, build(0, 1, api.Worker, 6, 6), move(0, 10, 9, 0), mine(0, 7, 5), mine(0, 8, 5))},
 		{"one comes that stays, and fights", idle(field(), 6, 7), mule(plain, build(0, 1, api.Worker, 6, 6), mine(0, 6, 5), attack(0, 10, 2), mine(0, 7, 5))},
 		{"who is gone is not told", straying, mule(straying, attack(1, 9, 11), empty())},
+		{"one comes that stays, and goes", plain, mule(plain, build(0, 1, api.Worker, 6, 6), move(0, 10, 9, 0), empty(), empty())},
+		{"two that lay claim to a place in vain are told so", rivals, mule(rivals, move(0, 9, 3, 9), move(0, 10, 3, 9), empty(), empty())},
+		{"of two that look the same one is chased", chased, mule(chased, move(0, 9, 11, 9), move(0, 10, 11, 8), empty())},
 		{"two that look the same are not told", twins, mule(twins, move(0, 9, 11, 9), move(0, 10, 11, 8))},
 	} {
 		end, _, err := elder.Step(c.s, c.l)
-		if err != nil || !fitting(end) || index(end.Ents, c.s.Next) >= 0 {
-			t.Fatalf("%s: the mule is not gone: %v, %v", c.name, end, err)
+		if err != nil || !muleCame(tape(c.s, c.l), 0) || !fitting(end) {
+			t.Fatalf("%s: no mule comes, or it is not gone: %v, %v", c.name, end, err)
 		}
 		behind := [][]api.Cmd{
 			cmds(build(0, 1, api.Worker, 4, 4), move(0, c.s.Next, 0, 0), attack(1, 2, c.s.Next), stop(0, 9), stop(0, 10)),
@@ -126,6 +131,20 @@ func TestGoneInACrowd(t *testing.T) {
 	}
 }
 
+// G2, W1: two come for one mule, and are gone, as three that were told to stop go on mining instead; no place is within reach of four soldiers.
+func TestTwoForOne(t *testing.T) {
+	s := from(20,
+		one(1, 0, api.Worker, 5, 5),
+		one(2, 1, api.Soldier, 2, 2), one(3, 1, api.Soldier, 2, 3), one(4, 1, api.Soldier, 2, 4),
+		one(5, 1, api.Soldier, 8, 6), one(6, 1, api.Soldier, 8, 7), one(7, 1, api.Soldier, 8, 8),
+		hurt(one(8, 2, api.Mine, 10, 1), 1),
+		aims(one(9, 0, api.Worker, 9, 0), api.Mines, 8), aims(one(10, 0, api.Worker, 10, 0), api.Mines, 8),
+		aims(one(11, 0, api.Worker, 11, 0), api.Mines, 8), aims(one(12, 0, api.Worker, 11, 1), api.Mines, 8))
+	l := mule(s, stop(0, 9), stop(0, 10), stop(0, 11), empty())
+	playedFromEach(t, "two for one", tape(s, l, cmds(build(0, 1, api.Worker, 4, 4), move(0, 8, 0, 0), move(0, 13, 0, 0)), nil))
+	refused(t, "without the last order", tape(s, l[:7]), 0, 1, api.ErrCompat)
+}
+
 // W1: what no orders make up for is refused, with the Tick behind it; what comes behind that tick is carried over.
 func TestGoneInVain(t *testing.T) {
 	rich := field()
@@ -140,6 +159,7 @@ func TestGoneInVain(t *testing.T) {
 	}{
 		{"an order is wanting", field(), mule(field(), empty())},
 		{"two orders are wanting", field(), mule(field())},
+		{"who comes must be told, too", field(), mule(field(), build(0, 1, api.Worker, 6, 6), move(0, 10, 9, 0), empty())},
 		{"the mine would not be gone", rich, mule(rich, empty(), empty(), empty(), empty())},
 		{"the gold is the other one's", others, mule(others, empty(), empty(), empty(), empty())},
 		{"nobody mines", idle(field(), 6, 7, 8), mule(field(), empty(), empty(), empty(), empty())},
@@ -148,45 +168,72 @@ func TestGoneInVain(t *testing.T) {
 		x := tape(c.s, c.l, cmds(move(0, 1, 9, 0), build(0, 1, api.Worker, 4, 4)), nil)
 		x.Start.Tick = 7
 		end, err := elder.Play(x, 1)
-		if err != nil || !fitting(end) || index(end.Ents, c.s.Next) >= 0 || index(end.Ents, c.s.Next+1) >= 0 {
-			t.Fatalf("%s: the mule is not gone: %v, %v", c.name, end, err)
+		if err != nil || !muleCame(x, 0) || !fitting(end) {
+			t.Fatalf("%s: no mule comes, or it is not gone: %v, %v", c.name, end, err)
 		}
 		refused(t, c.name, x, 0, 8, api.ErrCompat)
 		played(t, c.name, x, 1)
 	}
 }
 
+// busy: a state in which some are hurt, and do one thing or another; the less, the greater calm is.
+func busy(r *rand.Rand, s api.Elder, calm int) api.Elder {
+	for i := range s.Ents[1:] {
+		e := &s.Ents[i+1]
+		if r.Intn(calm) == 0 {
+			e.HP = 1 + r.Intn(3)
+		}
+		was := *e
+		switch o := s.Ents[r.Intn(len(s.Ents))]; r.Intn(calm) {
+		case 0:
+			*e = going(*e, max(0, e.X+r.Intn(5)-2), max(0, e.Y+r.Intn(5)-2))
+		case 1:
+			*e = aims(*e, api.Fights, o.ID)
+		case 2, 3, 4:
+			*e = aims(*e, api.Mines, 1)
+		}
+		if elder.Check(s) != nil {
+			*e = was
+		}
+	}
+	return s
+}
+
 // drawnGone: a tick in which a mule comes, and is gone, beside a mine that is nearly dug up; false: it did not come out so.
-func drawnGone(r *rand.Rand) (api.Elder, []api.Cmd, bool) {
-	s := crowd([2]int{5 + r.Intn(30), 5 + r.Intn(30)}, hurt(one(1, api.Nobody, api.Mine, 5, 5), 1+r.Intn(3)))
+func drawnGone(r *rand.Rand, calm int) (api.Elder, []api.Cmd, bool) {
+	s := crowd([2]int{5 + r.Intn(30), 5 + r.Intn(30)}, hurt(one(1, api.Nobody, api.Mine, 4, 4), 1+r.Intn(2)))
 	me := r.Intn(2)
 	add := func(owner, kind, x, y int) {
-		if x >= 0 && y >= 0 && standing(s.Ents, place{x, y}) < 0 {
+		if x >= 0 && y >= 0 && len(s.Ents) < 19 && standing(s.Ents, place{x, y}) < 0 {
 			s.Ents = append(s.Ents, one(s.Next, owner, kind, x, y))
 			s.Next++
 		}
 	}
-	for range 3 + r.Intn(6) {
-		add([]int{me, me, me, 1 - me}[r.Intn(4)], api.Worker, 4+r.Intn(3), 4+r.Intn(3))
-	}
-	for i := range s.Ents[1:] {
-		if r.Intn(3) > 0 {
-			s.Ents[i+1] = aims(s.Ents[i+1], api.Mines, 1)
-		}
+	for range 3 + r.Intn(7) {
+		add([]int{me, me, me, 1 - me}[r.Intn(4)], api.Worker, 2+r.Intn(5), 2+r.Intn(5))
 	}
 	x, y := 1+r.Intn(7), 1+r.Intn(7)
 	add(me, api.Worker, x, y)
 	by, killers := s.Next-1, s.Next
-	for range 3 + r.Intn(3) {
+	for range 3 + r.Intn(4) {
 		add(1-me, api.Soldier, x+r.Intn(7)-3, y+r.Intn(7)-3)
 	}
 	l := cmds(build(me, by, api.Mule, x+r.Intn(3)-1, y+r.Intn(3)-1))
-	for id := killers; id < s.Next; id++ {
+	for id := killers; id < s.Next && len(l) < 6; id++ {
 		l = append(l, attack(1-me, id, s.Next))
 	}
-	for len(l) < 8 && r.Intn(4) > 0 {
+	mules := s.Next
+	for range r.Intn(4) {
+		add(r.Intn(2), 1+r.Intn(2), r.Intn(9), r.Intn(9))
+	}
+	for i := range l[1:] {
+		l[i+1].Target += s.Next - mules
+	}
+	s = busy(r, s, calm)
+	for len(l) < 8 && r.Intn(5) > 0 {
 		e := s.Ents[r.Intn(len(s.Ents))]
-		l = append(l, []api.Cmd{{}, {}, mine(e.Owner, e.ID, 1), stop(e.Owner, e.ID)}[r.Intn(4)])
+		l = append(l, []api.Cmd{{}, mine(e.Owner, e.ID, 1), stop(e.Owner, e.ID), move(e.Owner, e.ID, r.Intn(9), r.Intn(9)),
+			attack(e.Owner, e.ID, 1+r.Intn(s.Next)), build(e.Owner, e.ID, 1+r.Intn(2), e.X+1, e.Y)}[r.Intn(min(calm, 6))])
 	}
 	mid, err := elder.Moved(s, l)
 	end, _, _ := elder.Step(s, l)
@@ -245,10 +292,10 @@ func tryEach(s api.Newer, l []api.Order, room []int, choices []api.Order, want a
 func TestGoneDrawn(t *testing.T) {
 	r := rand.New(rand.NewSource(25))
 	plain, carried, not := 0, 0, 0
-	for carried+not < 600 {
-		s, l, ok := drawnGone(r)
-		x := tape(s, l)
-		if !ok || checked(x) != nil {
+	for carried < 400 {
+		s, l, ok := drawnGone(r, 5+r.Intn(4))
+		x := tape(s, l, drawnCmds(r, s, 2), nil)
+		if end, _ := elder.Play(x, 3); !ok || checked(x) != nil || !fitting(end) {
 			continue
 		}
 		_, tick, err := Translate(x, 0)
@@ -258,17 +305,17 @@ func TestGoneDrawn(t *testing.T) {
 			played(t, "drawn", x, 0)
 		case err == api.ErrCompat && tick == 1:
 			not++
-		default:
+		case err != api.ErrCompat || tick != 2:
 			t.Fatalf("%v: %d, %v", x, tick, err)
 		}
-		if (carried+not)%2 == 0 && plainly(t, s, l) {
+		if (carried+not)%10 == 0 && plainly(t, s, l) {
 			plain++
-			if err != nil {
+			if err != nil && tick == 1 {
 				t.Fatalf("%v can be carried over", x)
 			}
 		}
 	}
-	if plain < 20 || carried < 100 || not < 100 {
+	if plain < 5 || not < 400 {
 		t.Errorf("%d could plainly be, %d were carried over, %d were not", plain, carried, not)
 	}
 }

@@ -115,7 +115,7 @@ func (s scene) parties(yield func([]api.Ent) bool) {
 		}
 		for _, b := range guests[:i] {
 			two := append(slices.Clone(one), b)
-			if spot(a) != spot(b) && len(stay)+toll(a)+toll(b) <= s.most && s.affords(two) && !yield(two) {
+			if len(stay)+toll(a)+toll(b) <= s.most && s.affords(two) && !yield(two) {
 				return
 			}
 		}
@@ -168,11 +168,13 @@ func (s scene) lineUp(party []api.Ent) (line []api.Ent, by []int, ok bool) {
 
 // builder: the ID of one who can raise that one where it is to stand; 0: nobody can.
 func builder(l []api.Ent, e api.Ent) int {
-	i := slices.IndexFunc(l, func(o api.Ent) bool {
-		return o.Kind == api.Worker && o.Owner == e.Owner && rules.Far(o.X, o.Y, e.X, e.Y) <= 1
-	})
-	if i < 0 {
+	if standing(l, spot(e)) >= 0 {
 		return 0
 	}
-	return l[i].ID
+	for _, o := range l {
+		if o.Kind == api.Worker && o.Owner == e.Owner && rules.Far(o.X, o.Y, e.X, e.Y) <= 1 {
+			return o.ID
+		}
+	}
+	return 0
 }

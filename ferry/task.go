@@ -15,7 +15,7 @@ type task struct {
 	all    []api.Ent // as the orders are done: who was there, and behind them who comes
 	at     []api.Ent // the same, where they stand at the blows
 	plans  [][]plan  // of each who was there
-	claims []place   // to which several may lay claim in vain
+	claims []place   // to which plans lay claim in vain
 	rest   []debt    // by how many have picked their plan: the most that the others can do
 	failed map[debt]int
 	picked []plan
@@ -151,23 +151,11 @@ func (t *task) hit(i int, e api.Ent) int {
 	return -1
 }
 
-// contest: take the plans away of who would have a place for itself, and list the places that nobody gets.
+// contest: list the places to which plans lay claim in vain.
 func (t *task) contest() {
-	rivals := map[place]int{}
-	for _, l := range t.plans {
-		for i, p := range l {
-			before := func(o plan) bool { return o.claim == p.claim }
-			if p.claim != spot(p.does) && !slices.ContainsFunc(l[:i], before) {
-				rivals[p.claim]++
-			}
-		}
-	}
-	for i := range t.plans {
-		t.plans[i] = slices.DeleteFunc(t.plans[i], func(p plan) bool { return p.claim != spot(p.does) && rivals[p.claim] < 2 })
-		for _, p := range t.plans[i] {
-			if p.claim != spot(p.does) && !slices.Contains(t.claims, p.claim) {
-				t.claims = append(t.claims, p.claim)
-			}
+	for _, p := range slices.Concat(t.plans...) {
+		if p.claim != spot(p.does) && !slices.Contains(t.claims, p.claim) {
+			t.claims = append(t.claims, p.claim)
 		}
 	}
 }
