@@ -12,10 +12,11 @@ import (
 type part struct {
 	at   place // where it stands at the blows
 	slot int   // which of those it is who are there behind the tick; below 0: it is gone
+	odd  int   // how unlikely it is that this helps; 0: its own part, as in the elder game
 }
 
-// strays: how many may have another part than they had in the elder game.
-const strays = 3
+// oddest: how odd all parts may be together. There are too many castings to try them all.
+const oddest = 4
 
 // castings: the tick as it was, and then with others in one or more of its parts: a view does not tell who is who.
 func (s scene) castings(yield func(scene) bool) {
@@ -23,50 +24,57 @@ func (s scene) castings(yield func(scene) bool) {
 	for i := range s.was.Ents {
 		parts = append(parts, s.partsOf(i))
 	}
-	for n := range strays + 1 {
-		if !s.cast(parts, nil, n, yield) {
+	for odd := range oddest + 1 {
+		if !s.cast(parts, nil, odd, yield) {
 			return
 		}
 	}
 }
 
-// cast those who have no part yet, so many of them otherwise than they were; false: enough.
-func (s scene) cast(parts [][]part, given []part, others int, yield func(scene) bool) bool {
+// cast those who have no part yet, just as odd as that; false: enough.
+func (s scene) cast(parts [][]part, given []part, odd int, yield func(scene) bool) bool {
 	i := len(given)
 	if i == len(parts) {
-		return others > 0 || !s.mayEnd(given) || yield(s.staged(given))
+		return odd > 0 || !s.mayEnd(given) || yield(s.staged(given))
 	}
-	for k, p := range parts[i] {
+	for _, p := range parts[i] {
 		taken := func(o part) bool { return o.at == p.at }
-		if min(k, 1) > others || slices.ContainsFunc(given, taken) {
+		if p.odd > odd || slices.ContainsFunc(given, taken) {
 			continue
 		}
-		if !s.cast(parts, append(given, p), others-min(k, 1), yield) {
+		if !s.cast(parts, append(given, p), odd-p.odd, yield) {
 			return false
 		}
 	}
 	return true
 }
 
-// partsOf one, its own first. Who stays where it is has no other one: nobody else gets there.
-// Who is gone may have stayed, or done what it does already; where others stand, now or behind the tick, it can't have been.
+// partsOf one. Who stays where it is has its own alone: nobody else gets there.
+// Who is gone may have stayed, or done what it does already, or have been anywhere else where nobody stands, now or behind the tick.
 func (s scene) partsOf(i int) []part {
 	e := s.was.Ents[i]
-	own := part{spot(find(s.mid.Ents, e.ID)), index(s.end.Ents, e.ID)}
+	own := part{spot(find(s.mid.Ents, e.ID)), index(s.end.Ents, e.ID), 0}
+	l := []part{own}
 	if own.slot >= 0 && own.at == spot(e) {
-		return []part{own}
+		return l
 	}
-	l := []part{{spot(e), -1}}
-	x, y := elder.Wish(s.was.Ents, e)
-	if to := (place{x, y}); standing(s.was.Ents, to) < 0 && standing(s.end.Ents, to) < 0 {
-		l = append(l, part{to, -1})
-	}
-	for j, o := range s.end.Ents {
-		if o.Kind == e.Kind && o.Owner == e.Owner && rules.Far(e.X, e.Y, o.X, o.Y) <= 1 {
-			l = append(l, part{spot(o), j})
+	wx, wy := elder.Wish(s.was.Ents, e)
+	for n := range 9 {
+		at := place{e.X - 1 + n%3, e.Y - 1 + n/3}
+		p := part{at, standing(s.end.Ents, at), 1}
+		switch {
+		case !rules.On(at.x, at.y) || at != spot(e) && standing(s.was.Ents, at) >= 0:
+			continue
+		case p.slot >= 0 && (s.end.Ents[p.slot].Kind != e.Kind || s.end.Ents[p.slot].Owner != e.Owner):
+			continue
+		case p.slot < 0 && at != spot(e) && at != place{wx, wy}:
+			p.odd = 2
+		}
+		if p.at != own.at || p.slot != own.slot {
+			l = append(l, p)
 		}
 	}
-	return append([]part{own}, slices.DeleteFunc(l, func(p part) bool { return p == own })...)
+	return l
 }
 
 // mayEnd: are there strikers enough near all who are to be gone?
@@ -106,7 +114,7 @@ func (s scene) staged(given []part) scene {
 	}
 	mid := s.placed(given)
 	for i, e := range mid {
-		if did := find(s.mid.Ents, e.ID); given[i] == (part{spot(did), index(s.end.Ents, e.ID)}) {
+		if did := find(s.mid.Ents, e.ID); given[i].odd == 0 {
 			mid[i] = did
 		}
 	}

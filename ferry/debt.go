@@ -20,7 +20,7 @@ type debt struct {
 func (t *task) owed() debt {
 	d := debt{orders: t.most - len(t.party)}
 	for p := range api.Players {
-		d.gold[p] = t.end.Gold[p] - t.was.Gold[p] + bill(t.party, p)
+		d.gold[p] = t.due(t.party, p)
 	}
 	for i, e := range t.all {
 		end := find(t.end.Ents, e.ID)

@@ -59,29 +59,44 @@ func raised(id, owner, kind int, p place) api.Ent {
 	return api.Ent{ID: id, Owner: owner, Kind: kind, X: p.x, Y: p.y, HP: r.HP}
 }
 
-// guests: who might be raised, and be gone within the tick: where one was so it has the same ID, else one by its place that nobody has.
-// (A Tower is never struck down within a tick: it would take ten soldiers.)
-func (s scene) guests() []api.Ent {
-	_, gone := s.newcomers()
+// guests: who might be raised, and be gone within the tick. (A Tower is never struck down so soon: it would take ten soldiers.)
+func (s scene) guests(stay, gone []api.Ent) []api.Ent {
 	old := slices.DeleteFunc(slices.Clone(s.mid.Ents), func(e api.Ent) bool { return index(s.was.Ents, e.ID) < 0 })
+	var l []api.Ent
+	for owner := range api.Players {
+		for _, kind := range []int{api.Worker, api.Soldier} {
+			if !s.mayHost(stay, raised(0, owner, kind, place{})) {
+				continue
+			}
+			for _, e := range s.free(gone) {
+				if e = raised(e.ID, owner, kind, spot(e)); mayFall(old, e) {
+					l = append(l, e)
+				}
+			}
+		}
+	}
+	return l
+}
+
+// mayHost: are there orders for a guest, and gold, that is not more than can be dug up again? (With another guest there would be even less.)
+func (s scene) mayHost(stay []api.Ent, guest api.Ent) bool {
+	party := append(slices.Clone(stay), guest)
+	p := guest.Owner
+	return len(stay)+toll(guest) <= s.most && bill(party, p) <= s.was.Gold[p] && s.due(party, p) <= s.diggers(p)
+}
+
+// free places, on which nobody stands as the tick begins, nor at the blows but who is gone; with its ID, else with one that nobody has.
+func (s scene) free(gone []api.Ent) []api.Ent {
 	var l []api.Ent
 	for n := range api.Side * api.Side {
 		p := place{n % api.Side, n / api.Side}
-		id := stranger(p)
 		if standing(s.was.Ents, p) >= 0 {
 			continue
 		}
 		if i := standing(gone, p); i >= 0 {
-			id = gone[i].ID
-		} else if standing(s.mid.Ents, p) >= 0 {
-			continue
-		}
-		for owner := range api.Players {
-			for _, kind := range []int{api.Worker, api.Soldier} {
-				if e := raised(id, owner, kind, p); mayFall(old, e) {
-					l = append(l, e)
-				}
-			}
+			l = append(l, gone[i])
+		} else if standing(s.mid.Ents, p) < 0 {
+			l = append(l, raised(stranger(p), 0, 0, p))
 		}
 	}
 	return l
@@ -103,8 +118,8 @@ func mayFall(l []api.Ent, e api.Ent) bool {
 
 // parties: who might come in the tick: those who stay, and with them no guest, one, or two: for three there are not orders enough.
 func (s scene) parties(yield func([]api.Ent) bool) {
-	stay, _ := s.newcomers()
-	guests := s.guests()
+	stay, gone := s.newcomers()
+	guests := s.guests(stay, gone)
 	if s.affords(stay) && !yield(stay) {
 		return
 	}
@@ -127,14 +142,32 @@ func toll(e api.Ent) int {
 	return 1 + (e.HP+1)/2
 }
 
-// affords: is there gold, and room, for those who come?
+// affords: is there gold, and room, for those who come, and can what is due then be dug up?
 func (s scene) affords(party []api.Ent) bool {
 	for p := range api.Players {
-		if bill(party, p) > s.was.Gold[p] {
+		if due := s.due(party, p); due < 0 || due > s.diggers(p) || bill(party, p) > s.was.Gold[p] {
 			return false
 		}
 	}
 	return len(s.was.Ents)+len(party) <= api.MaxEnts
+}
+
+// due: how much gold a player must dig up, if those come.
+func (s scene) due(party []api.Ent, player int) int {
+	return s.end.Gold[player] - s.was.Gold[player] + bill(party, player)
+}
+
+// diggers: how many of a player's workers are near a mine at the blows.
+func (s scene) diggers(player int) int {
+	sum := 0
+	for _, e := range s.mid.Ents {
+		near := func(o api.Ent) bool { return elder.May(e, api.Mines, o) && elder.Near(e, o) }
+		e.Does = api.Mines
+		if e.Owner == player && slices.ContainsFunc(s.mid.Ents, near) {
+			sum++
+		}
+	}
+	return sum
 }
 
 // bill: what a player pays for those who come.
