@@ -143,6 +143,11 @@ func TestTwoForOne(t *testing.T) {
 	l := mule(s, stop(0, 9), stop(0, 10), stop(0, 11), empty())
 	playedFromEach(t, "two for one", tape(s, l, cmds(build(0, 1, api.Worker, 4, 4), move(0, 8, 0, 0), move(0, 13, 0, 0)), nil))
 	refused(t, "without the last order", tape(s, l[:7]), 0, 1, api.ErrCompat)
+	for i := range 7 {
+		s.Ents = append(s.Ents, one(13+i, 1, api.Worker, i, 11))
+	}
+	s.Next = 20
+	refused(t, "without room for both", tape(s, mule(s, l[4:]...)), 0, 1, api.ErrCompat)
 }
 
 // W1: what no orders make up for is refused, with the Tick behind it; what comes behind that tick is carried over.
@@ -152,11 +157,19 @@ func TestGoneInVain(t *testing.T) {
 	others := field()
 	others.Ents[5].Owner, others.Ents[6].Owner = 1, 1
 	pair := field(one(9, 1, api.Soldier, 5, 3), one(10, 1, api.Soldier, 5, 4), one(11, 1, api.Soldier, 6, 4))
+	poor := idle(field(one(9, 1, api.Soldier, 5, 3)), 7, 8)
+	poor.Gold[0] = 7
+	moves := cmds(move(0, 9, 11, 9), move(0, 10, 11, 8), move(1, 10, 11, 8))
+	kinds := field(going(one(9, 0, api.Worker, 1, 8), 11, 8), going(hurt(one(10, 0, api.Soldier, 1, 9), 5), 11, 9))
+	owners := field(going(one(9, 0, api.Worker, 1, 8), 11, 8), going(one(10, 1, api.Worker, 1, 9), 11, 9))
 	for _, c := range []struct {
 		name string
 		s    api.Elder
 		l    []api.Cmd
 	}{
+		{"a soldier costs too much", poor, mule(poor, attack(1, 9, 10), empty())},
+		{"a soldier does not look like a worker", kinds, mule(kinds, moves[0], moves[1])},
+		{"the other one's worker does not look like it", owners, mule(owners, moves[0], moves[2])},
 		{"an order is wanting", field(), mule(field(), empty())},
 		{"two orders are wanting", field(), mule(field())},
 		{"who comes must be told, too", field(), mule(field(), build(0, 1, api.Worker, 6, 6), move(0, 10, 9, 0), empty())},

@@ -78,21 +78,17 @@ func (s scene) guests(stay, gone []api.Ent) []api.Ent {
 	return l
 }
 
-// mayHost: are there orders for a guest, and gold, that is not more than can be dug up again? (With another guest there would be even less.)
+// mayHost: are there orders enough for a guest, and who digs up what is due? (With another guest it would be even more.)
 func (s scene) mayHost(stay []api.Ent, guest api.Ent) bool {
 	party := append(slices.Clone(stay), guest)
-	p := guest.Owner
-	return len(stay)+toll(guest) <= s.most && bill(party, p) <= s.was.Gold[p] && s.due(party, p) <= s.diggers(p)
+	return len(stay)+toll(guest) <= s.most && s.due(party, guest.Owner) <= s.diggers(guest.Owner)
 }
 
-// free places, on which nobody stands as the tick begins, nor at the blows but who is gone; with its ID, else with one that nobody has.
+// free places, on which nobody stands at the blows but who is gone: with its ID, else with one that nobody has.
 func (s scene) free(gone []api.Ent) []api.Ent {
 	var l []api.Ent
 	for n := range api.Side * api.Side {
 		p := place{n % api.Side, n / api.Side}
-		if standing(s.was.Ents, p) >= 0 {
-			continue
-		}
 		if i := standing(gone, p); i >= 0 {
 			l = append(l, gone[i])
 		} else if standing(s.mid.Ents, p) < 0 {
