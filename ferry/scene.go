@@ -157,8 +157,8 @@ func (s scene) due(party []api.Ent, player int) int {
 func (s scene) diggers(player int) int {
 	sum := 0
 	for _, e := range s.mid.Ents {
-		near := func(o api.Ent) bool { return elder.May(e, api.Mines, o) && elder.Near(e, o) }
 		e.Does = api.Mines
+		near := func(o api.Ent) bool { return elder.May(e, api.Mines, o) && elder.Near(e, o) }
 		if e.Owner == player && slices.ContainsFunc(s.mid.Ents, near) {
 			sum++
 		}
