@@ -113,17 +113,15 @@ func turned(e api.Ent, does, gx, gy, target int) api.Ent {
 }
 
 // endsWell: if it does so, does it behind the tick what it should? Who is gone may have done anything.
+// Who is where it goes to is Idle then, as is who lost its target: so nobody who was there can take the part of one who came, and was told to go to where it is.
 func (t *task) endsWell(i int, e api.Ent) bool {
-	end := find(t.end.Ents, e.ID)
-	switch {
-	case end.ID == 0:
-		return true
-	case end.Does != api.Idle:
-		return e.Does == end.Does && e.GX == end.GX && e.GY == end.GY && e.Target == end.Target
-	case e.Does == api.Going:
-		return place{e.GX, e.GY} == spot(t.at[i])
+	there := e.Does == api.Going && place{e.GX, e.GY} == spot(t.at[i])
+	lost := e.Target > 0 && index(t.end.Ents, e.Target) < 0
+	if there || lost {
+		e = turned(e, api.Idle, 0, 0, 0)
 	}
-	return e.Target == 0 || index(t.end.Ents, e.Target) < 0
+	end := find(t.end.Ents, e.ID)
+	return end.ID == 0 || e == turned(e, end.Does, end.GX, end.GY, end.Target)
 }
 
 // moves: if it does so, does it stand at the blows where it should? If only as it lays claim to a place in vain: to which one.
